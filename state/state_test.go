@@ -1,0 +1,74 @@
+package state_test
+
+import (
+	"math"
+	"reflect"
+	"testing"
+
+	"holdfast/api"
+	"holdfast/state"
+)
+
+func keyed(keys ...string) []api.Row {
+	var rows []api.Row
+	for _, key := range keys {
+		rows = append(rows, api.Row{Key: key, Columns: []string{"of " + key}})
+	}
+	return rows
+}
+
+// A - lies below a / , and a text below those that go on.
+func TestSortIsByBytes(t *testing.T) {
+	rows := keyed("a/b", "\xff", "a", "#", "a-", "", "a/b-", "b", "a/b/1", "9")
+	state.Sort(rows)
+	if want := keyed("", "#", "9", "a", "a-", "a/b", "a/b-", "a/b/1", "b", "\xff"); !reflect.DeepEqual(rows, want) {
+		t.Errorf("%q", rows)
+	}
+	state.Sort(nil)
+}
+
+func TestRising(t *testing.T) {
+	for _, rows := range [][]api.Row{nil, keyed(""), keyed("a"), keyed("", "a"), keyed("#", "a", "a-", "a/b", "b", "\xff")} {
+		if !state.Rising(rows) {
+			t.Errorf("%q are rising", rows)
+		}
+	}
+	for _, rows := range [][]api.Row{keyed("a", "a"), keyed("", ""), keyed("b", "a"), keyed("a/b", "a-"), keyed("a", "b", "b"), keyed("a", "c", "b"), keyed("a", "b", "a")} {
+		if state.Rising(rows) {
+			t.Errorf("%q are not rising", rows)
+		}
+	}
+}
+
+func TestText(t *testing.T) {
+	for n, want := range map[int]string{0: "a", 1: "b1", 255: "cff", api.MaxTime: "l10000000000"} {
+		if text := state.Text(n); text != want {
+			t.Errorf("%d: %q", n, text)
+		}
+	}
+}
+
+func TestNumber(t *testing.T) {
+	for _, c := range []struct {
+		text        string
+		least, most int
+		want        int
+		ok          bool
+	}{
+		{"a", 0, 0, 0, true},
+		{"cff", 255, 255, 255, true},
+		{"cff", 0, math.MaxInt, 255, true},
+		{"cff", 256, 300, 0, false},
+		{"cff", 0, 254, 0, false},
+		{"a", 1, 5, 0, false},
+		{"", 0, 5, 0, false},
+		{"b0", 0, 5, 0, false},
+		{"c01", 0, 5, 0, false},
+		{"1", 0, 5, 0, false},
+		{"q4000000000000001", 0, math.MaxInt, 0, false},
+	} {
+		if n, ok := state.Number(c.text, c.least, c.most); n != c.want || ok != c.ok {
+			t.Errorf("%q from %d to %d: %d %v", c.text, c.least, c.most, n, ok)
+		}
+	}
+}
