@@ -1,4 +1,4 @@
-// Package state is what all parts that are kept as rows have alike: the order of rows, and numbers in their columns.
+// Package state is what all parts that are kept as rows have alike: the order of rows, numbers in their columns, things that are numbered, and times.
 package state
 
 import (
@@ -8,6 +8,9 @@ import (
 	"holdfast/api"
 	"holdfast/codec"
 )
+
+// HeadKey is the key of the row that tells of a part as a whole: it lies below all numbers' texts and all names.
+const HeadKey = "#"
 
 // Sort orders rows by their keys' bytes.
 func Sort(rows []api.Row) {
@@ -24,10 +27,18 @@ func Rising(rows []api.Row) bool {
 	return true
 }
 
-// Text is a number's text, in a column or a key. What is kept is never a number that has none.
+// Text is a number's text, in a column or a key; of a number that has none it is empty, so that Number refuses it. Texts are those of several.
 func Text(n int) string {
 	text, _ := codec.Number(n)
 	return text
+}
+
+func Texts(numbers ...int) []string {
+	var texts []string
+	for _, n := range numbers {
+		texts = append(texts, Text(n))
+	}
+	return texts
 }
 
 // Number is that of a text, if it is one from least to most.

@@ -3,6 +3,7 @@ package state_test
 import (
 	"math"
 	"reflect"
+	"slices"
 	"testing"
 
 	"holdfast/api"
@@ -41,10 +42,16 @@ func TestRising(t *testing.T) {
 }
 
 func TestText(t *testing.T) {
-	for n, want := range map[int]string{0: "a", 1: "b1", 255: "cff", api.MaxTime: "l10000000000"} {
+	for n, want := range map[int]string{0: "a", 1: "b1", 255: "cff", api.MaxTime: "l10000000000", 1 << 62: "q4000000000000000", 1<<62 + 1: "", -1: ""} {
 		if text := state.Text(n); text != want {
 			t.Errorf("%d: %q", n, text)
 		}
+	}
+	if got := state.Texts(255, 0, 1); !slices.Equal(got, []string{"cff", "a", "b1"}) {
+		t.Errorf("%q", got)
+	}
+	if got := state.Texts(); len(got) != 0 {
+		t.Errorf("%q", got)
 	}
 }
 
