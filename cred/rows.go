@@ -10,7 +10,6 @@ import (
 )
 
 const (
-	between   = "/"
 	mostSalt  = 8
 	mostUntil = api.MaxTime + api.Lockout
 )
@@ -22,7 +21,7 @@ func (b *Book) Rows() []api.Row {
 	}
 	var rows []api.Row
 	for o, r := range b.records {
-		rows = append(rows, r.rows(o.Tenant+between+o.User)...)
+		rows = append(rows, r.rows(o.Tenant+state.Between+o.User)...)
 	}
 	state.Sort(rows)
 	return rows
@@ -58,14 +57,14 @@ func (r *record) rows(key string) []api.Row {
 	columns := []string{string(r.hash[:]), r.salt, state.Text(r.cost), state.Text(r.tries), state.Text(r.until)}
 	rows := []api.Row{{Key: key, Columns: columns}}
 	for i, code := range r.codes {
-		rows = append(rows, api.Row{Key: key + between + strconv.Itoa(i+1), Columns: []string{string(code[:])}})
+		rows = append(rows, api.Row{Key: key + state.Between + strconv.Itoa(i+1), Columns: []string{string(code[:])}})
 	}
 	return rows
 }
 
 // take lets a row be part of the book's state, if it may be. Rows rise: so a user comes ahead of its codes, and these in their order; but other users may stand between them.
 func (b *Book) take(row api.Row) bool {
-	parts := strings.Split(row.Key, between)
+	parts := strings.Split(row.Key, state.Between)
 	if len(parts) < 2 || len(parts) > 3 {
 		return false
 	}
@@ -78,7 +77,7 @@ func (b *Book) take(row api.Row) bool {
 
 func (b *Book) takeUser(o api.Owner, columns []string) bool {
 	r, ok := toRecord(columns)
-	if !ok || !isOwner(o) || !b.hasRoom(o.Tenant) {
+	if !ok || !state.IsOwner(o) || !b.hasRoom(o.Tenant) {
 		return false
 	}
 	b.records[o] = r
@@ -90,7 +89,7 @@ func (b *Book) takeCode(o api.Owner, number string, columns []string) bool {
 	if e != api.OK || len(columns) != 1 || len(r.codes) == api.Codes || number != strconv.Itoa(len(r.codes)+1) {
 		return false
 	}
-	h, ok := toHash(columns[0])
+	h, ok := state.Hash(columns[0])
 	if ok {
 		r.codes = append(r.codes, h)
 	}
@@ -101,7 +100,7 @@ func toRecord(columns []string) (*record, bool) {
 	if len(columns) != 5 || len(columns[1]) > mostSalt {
 		return nil, false
 	}
-	h, isHash := toHash(columns[0])
+	h, isHash := state.Hash(columns[0])
 	cost, isCost := state.Number(columns[2], 1, api.MaxCost)
 	tries, isTries := state.Number(columns[3], 0, api.MaxTries)
 	until, isUntil := state.Number(columns[4], 0, mostUntil)
@@ -109,11 +108,4 @@ func toRecord(columns []string) (*record, bool) {
 		return nil, false
 	}
 	return &record{counters: counters{tries: tries, until: until}, hash: h, salt: columns[1], cost: cost}, true
-}
-
-func toHash(column string) (api.Hash, bool) {
-	if len(column) != len(api.Hash{}) {
-		return api.Hash{}, false
-	}
-	return api.Hash([]byte(column)), true
 }

@@ -7,29 +7,24 @@ import (
 	"holdfast/state"
 )
 
-const (
-	sealedKey = "#" // lies below all names
-	between   = "/"
-)
-
 // Rows are its state; Load is a tree with a root and such a state.
 func (t *Tree) Rows() []api.Row {
 	if t == nil {
 		return nil
 	}
-	rows := []api.Row{numberRow(sealedKey, t.sealed)}
+	rows := []api.Row{numberRow(state.HeadKey, t.sealed)}
 	for tenant := range t.gone {
 		rows = append(rows, api.Row{Key: tenant})
 	}
 	for at, version := range t.versions {
-		rows = append(rows, numberRow(at.tenant+between+at.purpose, version))
+		rows = append(rows, numberRow(at.tenant+state.Between+at.purpose, version))
 	}
 	state.Sort(rows)
 	return rows
 }
 
 func Load(root api.Hash, rows ...api.Row) (*Tree, api.Errno) {
-	if len(rows) == 0 || rows[0].Key != sealedKey || !state.Rising(rows) {
+	if len(rows) == 0 || rows[0].Key != state.HeadKey || !state.Rising(rows) {
 		return nil, api.ErrForm
 	}
 	t := New(root)
@@ -47,9 +42,9 @@ func numberRow(key string, n int) api.Row {
 
 // take lets a row be part of the tree's state, if it may be. Rows rise: so a tenant that is gone comes ahead of its purposes.
 func (t *Tree) take(row api.Row) bool {
-	tenant, purpose, rotated := strings.Cut(row.Key, between)
+	tenant, purpose, rotated := strings.Cut(row.Key, state.Between)
 	switch {
-	case row.Key == sealedKey:
+	case row.Key == state.HeadKey:
 		return t.takeSealed(row.Columns)
 	case rotated:
 		return t.takeVersion(tenant, purpose, row.Columns)

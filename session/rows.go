@@ -64,7 +64,7 @@ func (t *Table) toSession(id int, columns []string) (api.Session, bool) {
 	o := api.Owner{Tenant: columns[0], User: columns[1]}
 	used, isUsed := state.Number(columns[3], 0, t.noted)
 	since, isSince := state.Number(columns[2], 0, used)
-	if !isOwner(o) || !isUsed || !isSince {
+	if !state.IsOwner(o) || !isUsed || !isSince {
 		return api.Session{}, false
 	}
 	return api.Session{Id: id, Owner: o, Since: since, Used: used}, true

@@ -1,4 +1,4 @@
-// Package state is what all parts that are kept as rows have alike: the order of rows, numbers in their columns, things that are numbered, and times.
+// Package state is what all parts that are kept as rows have alike: the order of rows, what stands in their keys and columns, things that are numbered, times, owners, and scopes.
 package state
 
 import (
@@ -9,8 +9,11 @@ import (
 	"holdfast/codec"
 )
 
-// HeadKey is the key of the row that tells of a part as a whole: it lies below all numbers' texts and all names.
-const HeadKey = "#"
+// HeadKey is the key of the row that tells of a part as a whole: it lies below all numbers' texts and all names. Between stands between the names of a key: it is a byte of none of them.
+const (
+	HeadKey = "#"
+	Between = "/"
+)
 
 // Sort orders rows by their keys' bytes.
 func Sort(rows []api.Row) {
@@ -48,4 +51,17 @@ func Number(text string, least, most int) (int, bool) {
 		return 0, false
 	}
 	return n, true
+}
+
+// Hash is that of a column: all columns of so many bytes are one.
+func Hash(column string) (api.Hash, bool) {
+	if len(column) != len(api.Hash{}) {
+		return api.Hash{}, false
+	}
+	return api.Hash([]byte(column)), true
+}
+
+// IsOwner tells whether both of an owner's parts are names.
+func IsOwner(o api.Owner) bool {
+	return codec.IsName(o.Tenant) && codec.IsName(o.User)
 }

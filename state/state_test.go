@@ -4,6 +4,7 @@ import (
 	"math"
 	"reflect"
 	"slices"
+	"strings"
 	"testing"
 
 	"holdfast/api"
@@ -76,6 +77,75 @@ func TestNumber(t *testing.T) {
 	} {
 		if n, ok := state.Number(c.text, c.least, c.most); n != c.want || ok != c.ok {
 			t.Errorf("%q from %d to %d: %d %v", c.text, c.least, c.most, n, ok)
+		}
+	}
+}
+
+func TestHash(t *testing.T) {
+	var long api.Hash
+	for i := range long {
+		long[i] = byte(255 - i)
+	}
+	for _, want := range []api.Hash{{}, {1}, {31: 1}, long} {
+		if h, ok := state.Hash(string(want[:])); h != want || !ok {
+			t.Errorf("%x: %x %v", want, h, ok)
+		}
+	}
+	for _, size := range []int{0, 1, 31, 33, 64, 256 + 32} {
+		if h, ok := state.Hash(strings.Repeat("h", size)); h != (api.Hash{}) || ok {
+			t.Errorf("%d bytes: %x %v", size, h, ok)
+		}
+	}
+}
+
+func TestIsOwner(t *testing.T) {
+	for _, name := range []string{"a", "-", "abcdefghi"} {
+		if !state.IsOwner(api.Owner{Tenant: name, User: name}) {
+			t.Error(name)
+		}
+	}
+	for _, bad := range []string{"", "A", "a/b", "abcdefghij", "\x00"} {
+		for _, o := range []api.Owner{{Tenant: bad, User: "u"}, {Tenant: "t", User: bad}, {Tenant: bad, User: bad}} {
+			if state.IsOwner(o) {
+				t.Errorf("%q", o)
+			}
+		}
+	}
+}
+
+func TestIsNarrower(t *testing.T) {
+	for _, c := range []struct {
+		scopes, than api.Scopes
+		want         bool
+	}{
+		{0, 0, true},
+		{0, 255, true},
+		{255, 255, true},
+		{0b0101, 0b1101, true},
+		{0b1101, 0b0101, false},
+		{0b0010, 0b1101, false},
+		{1, 0, false},
+		{255, 254, false},
+		{128, 127, false},
+	} {
+		if got := state.IsNarrower(c.scopes, c.than); got != c.want {
+			t.Errorf("%b, %b: %v", c.scopes, c.than, got)
+		}
+	}
+}
+
+func TestScopes(t *testing.T) {
+	for scopes, text := range map[api.Scopes]string{0: "a", 1: "b1", 16: "c10", 255: "cff"} {
+		if got, ok := state.Scopes(text); got != scopes || !ok {
+			t.Errorf("%q: %v %v", text, got, ok)
+		}
+		if got := state.ScopesText(scopes); got != text {
+			t.Errorf("%d: %q", scopes, got)
+		}
+	}
+	for _, text := range []string{"", "1", "b0", "c01", "d100", "d101", "q4000000000000001"} {
+		if got, ok := state.Scopes(text); got != 0 || ok {
+			t.Errorf("%q: %v %v", text, got, ok)
 		}
 	}
 }

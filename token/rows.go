@@ -14,10 +14,7 @@ const (
 	tokenMark  = "t"
 )
 
-const (
-	mostSession = 1 << 62
-	allScopes   = 1<<api.MaxScopes - 1
-)
+const mostSession = 1 << 62
 
 // Rows are its state; Load is a store with such a state; Fork another one with the same.
 func (s *Store) Rows() []api.Row {
@@ -56,11 +53,11 @@ func (s *Store) Fork() *Store {
 }
 
 func familyColumns(f api.Family) []string {
-	return []string{state.Text(f.Session), f.Client, state.Text(int(f.Scopes)), state.Text(f.Next)}
+	return []string{state.Text(f.Session), f.Client, state.ScopesText(f.Scopes), state.Text(f.Next)}
 }
 
 func tokenColumns(t api.Token) []string {
-	return state.Texts(t.Family, int(t.Scopes), t.Until)
+	return []string{state.Text(t.Family), state.ScopesText(t.Scopes), state.Text(t.Until)}
 }
 
 // fromHead is a store without families and tokens.
@@ -97,12 +94,12 @@ func toFamily(id int, columns []string) (api.Family, bool) {
 		return api.Family{}, false
 	}
 	session, isSession := state.Number(columns[0], 1, mostSession)
-	scopes, isScopes := state.Number(columns[2], 0, allScopes)
+	scopes, isScopes := state.Scopes(columns[2])
 	next, isNext := state.Number(columns[3], firstRefresh, api.MaxTime)
 	if !isSession || !isScopes || !isNext {
 		return api.Family{}, false
 	}
-	return api.Family{Id: id, Session: session, Client: columns[1], Scopes: api.Scopes(scopes), Next: next}, true
+	return api.Family{Id: id, Session: session, Client: columns[1], Scopes: scopes, Next: next}, true
 }
 
 func (s *Store) toToken(id int, columns []string) (api.Token, bool) {
@@ -110,16 +107,16 @@ func (s *Store) toToken(id int, columns []string) (api.Token, bool) {
 		return api.Token{}, false
 	}
 	family, isFamily := state.Number(columns[0], state.FirstNumber, api.MaxTime)
-	scopes, isScopes := state.Number(columns[1], 0, allScopes)
+	scopes, isScopes := state.Scopes(columns[1])
 	until, isUntil := state.Number(columns[2], 0, api.MaxTime)
 	if !isFamily || !isScopes || !isUntil {
 		return api.Token{}, false
 	}
 	f, e := s.families.Find(family)
-	if e != api.OK || !isNarrower(api.Scopes(scopes), f.Scopes) {
+	if e != api.OK || !state.IsNarrower(scopes, f.Scopes) {
 		return api.Token{}, false
 	}
-	return api.Token{Id: id, Family: family, Scopes: api.Scopes(scopes), Until: until}, true
+	return api.Token{Id: id, Family: family, Scopes: scopes, Until: until}, true
 }
 
 // hasTooMany tells whether a session has more families than may be.
