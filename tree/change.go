@@ -31,8 +31,11 @@ func (c *change) grow(p page, key []byte, deed func(leaf entries) entries) page 
 	i := p.below(key)
 	child := c.grow(c.child(p, i), key, deed)
 	first, numbers := i, []int{child.number}
-	if child.size() < api.MinFill {
+	switch {
+	case child.size() < api.MinFill:
 		first, numbers, child = c.gather(p, i, child)
+	case child.size() > room:
+		first, numbers, child = c.spill(p, i, child)
 	}
 	p.entries = slices.Concat(p.entries[:first], c.lay(child, numbers), p.entries[first+len(numbers):])
 	return p
@@ -52,6 +55,23 @@ func (c *change) gather(p page, i int, child page) (first int, numbers []int, jo
 		return i, []int{child.number, right.number}, join(child, right)
 	}
 	return i - 1, []int{left.number, child.number}, join(left, child)
+}
+
+// spill joins a child that has too many bytes with a neighbour that has room for some of them, so that pages become full ahead of there being more of them. It answers as gather does; if there is no such neighbour, of the child alone.
+func (c *change) spill(p page, i int, child page) (first int, numbers []int, joined page) {
+	if i > 0 {
+		left := c.child(p, i-1)
+		if both := join(left, child); len(both.cut()) == 2 {
+			return i - 1, []int{left.number, child.number}, both
+		}
+	}
+	if i+1 < len(p.entries) {
+		right := c.child(p, i+1)
+		if both := join(child, right); len(both.cut()) == 2 {
+			return i, []int{child.number, right.number}, both
+		}
+	}
+	return i, []int{child.number}, child
 }
 
 // lay drafts a page, as more than one if it must, in the place of those with these numbers, and answers their entries in a parent.
@@ -101,13 +121,23 @@ func (c *change) write() {
 			delete(c.drafts, n)
 		}
 	}
-	numbers := slices.Sorted(maps.Keys(c.drafts))
-	written := slices.Concat(c.Dirty(), numbers)
-	slices.Sort(written)
-	if len(slices.Compact(written)) > api.MaxGroup {
-		giveUp(api.ErrFull)
+	if len(c.Dirty())+len(c.drafts) > api.MaxGroup {
+		c.forgetFree()
 	}
-	for _, n := range numbers {
+	for _, n := range slices.Sorted(maps.Keys(c.drafts)) {
 		c.Write(n, c.drafts[n]...)
 	}
+}
+
+// forgetFree lets pages be as they were that were written since the last Commit, and then let go: nobody reads them. It gives up, if those that are left are too many for a group.
+func (c *change) forgetFree() {
+	for _, n := range c.Dirty() {
+		if _, drafted := c.drafts[n]; !drafted && !c.isFree(n) {
+			c.drafts[n] = c.raw(n)
+		}
+	}
+	if len(c.drafts) > api.MaxGroup {
+		giveUp(api.ErrFull)
+	}
+	c.Abort()
 }

@@ -196,6 +196,62 @@ func TestGroupFillsUpWithNewPages(t *testing.T) {
 	wantAll(t, x, m)
 }
 
+// Of pages of the tree those that are let go need not be written, though they were changed first: each page here loses its last key first.
+func TestPagesThatWereLetGoAreNoneOfTheGroup(t *testing.T) {
+	for _, in := range []string{"rising", "falling"} {
+		x := newTree(t, 500)
+		m := evenPairs(1500)
+		for _, key := range m.keys() {
+			put(t, x, key, m[key])
+			commit(t, x)
+		}
+		if r := check(t, x); len(r.Pages) < 3*api.MaxGroup {
+			t.Fatal("a tree too small", len(r.Pages))
+		}
+		before, from := maps.Clone(m), x.Pager().Log().Disk().Count()
+		for _, key := range ordered(m.keys(), in)[:1490] {
+			remove(t, x, key)
+			delete(m, key)
+		}
+		wantAll(t, x, m)
+		if dirty := x.Pager().Dirty(); len(dirty) > api.MaxGroup {
+			t.Error(len(dirty))
+		}
+		for _, key := range evenPairs(200).keys() { // where pages were let go, others are written now
+			m[key] = "again"
+			put(t, x, key, m[key])
+		}
+		wantAll(t, x, m)
+		commit(t, x)
+		wantCuts(t, x.Pager().Log().Disk(), logSize, from, before, m)
+	}
+}
+
+// evenPairs are pairs of 50 bytes: five fill a page.
+func evenPairs(n int) model {
+	m := model{}
+	for i := range n {
+		m[fmt.Sprintf("%04d", i)] = strings.Repeat("v", 44)
+	}
+	return m
+}
+
+// A page that is too full gives some of it to a neighbour ahead of being two.
+func TestPagesBecomeFullAheadOfMore(t *testing.T) {
+	for _, in := range orders {
+		x := newTree(t, 500)
+		m := evenPairs(500)
+		for _, key := range ordered(m.keys(), in) {
+			put(t, x, key, m[key])
+			commit(t, x)
+		}
+		most := map[string]int{"rising": 105, "falling": 105, "mixed": 135}[in] // 100 leaves would be full
+		if r := wantAll(t, x, m); len(r.Pages) > most+10 {
+			t.Error(in, len(r.Pages))
+		}
+	}
+}
+
 func TestOnlyPagesThatBecomeOthersAreWritten(t *testing.T) {
 	x, m := broad(t)
 	key := m.keys()[100]
