@@ -1,11 +1,7 @@
 // Package ops is what requests are called: in lines, and in the events that tell of them.
 package ops
 
-import (
-	"slices"
-
-	"holdfast/api"
-)
+import "holdfast/api"
 
 // first is the Op that the first word is of: NoOp has none.
 const first = api.AddUser
@@ -20,7 +16,11 @@ var words = [...]string{
 
 // Words are all of them.
 func Words() []string {
-	return slices.Clone(words[:])
+	all := make([]string, len(words))
+	for i, word := range words {
+		all[i] = word
+	}
+	return all
 }
 
 // Word is that of an Op; of one that is none it is empty.
@@ -33,9 +33,10 @@ func Word(op api.Op) string {
 
 // Op is that of a word; of one that is none it is NoOp.
 func Op(word string) api.Op {
-	i := slices.Index(words[:], word)
-	if i < 0 {
-		return api.NoOp
+	for i, known := range words {
+		if known == word {
+			return first + api.Op(i)
+		}
 	}
-	return first + api.Op(i)
+	return api.NoOp
 }
